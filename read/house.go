@@ -5,6 +5,7 @@ import (
 	"slices"
 
 	"ostracon/api"
+	"ostracon/grammar"
 	"ostracon/lexicon"
 	"ostracon/signs"
 )
@@ -63,22 +64,11 @@ func usesOf(h api.House, line []int) [][]api.Use {
 	all := make([][]api.Use, len(line))
 	for i, sign := range line {
 		for _, v := range list.Signs[sign].Values {
-			all[i] = append(all[i], usesFor(v)...)
+			all[i] = append(all[i], grammar.UsesFor(v)...)
 		}
 		slices.SortFunc(all[i], compareUses)
 	}
 	return all
-}
-
-// usesFor returns the uses that a sign has by one of its values.
-func usesFor(v api.Value) []api.Use {
-	switch v.Kind {
-	case api.Sound:
-		return []api.Use{{Kind: api.Spells, Text: v.Text}, {Kind: api.Repeats, Text: v.Text}}
-	case api.Word:
-		return []api.Use{{Kind: api.Stands, Text: v.Text}}
-	}
-	return []api.Use{{Kind: api.Closes, Text: v.Text}}
 }
 
 func compareUses(a, b api.Use) int {

@@ -5,27 +5,8 @@ import (
 	"slices"
 
 	"ostracon/api"
+	"ostracon/queue"
 )
-
-// queue keeps the first ones of what is put into it, in order.
-type queue[T any] struct {
-	compare func(a, b T) int
-	most    int
-	waiting []T
-}
-
-func (q *queue[T]) put(x T) {
-	at, _ := slices.BinarySearchFunc(q.waiting, x, q.compare)
-	q.waiting = slices.Insert(q.waiting, at, x)
-	q.waiting = q.waiting[:min(len(q.waiting), q.most)]
-}
-
-// take removes the first one.
-func (q *queue[T]) take() T {
-	first := q.waiting[0]
-	q.waiting = slices.Delete(q.waiting, 0, 1)
-	return first
-}
 
 // path is the beginning of a reading: its words, by their numbers among those
 // from the same place on.
@@ -47,16 +28,19 @@ func (a path) compare(b path) int {
 // so no more paths need to wait than there are readings to be listed.
 type lister struct {
 	forest
-	paths queue[path]
+	paths *queue.Queue[path]
 }
 
 // first returns the first readings of a line that has any.
 func (f forest) first(most int) []api.Reading {
-	l := lister{f, queue[path]{compare: path.compare, most: most}}
-	l.paths.put(path{cost: f.least[0]})
+	l := lister{f, queue.New(most, path.compare)}
+	l.paths.Put(path{cost: f.least[0]})
 	var found []api.Reading
-	for len(found) < most && len(l.paths.waiting) > 0 {
-		p := l.paths.take()
+	for len(found) < most {
+		p, ok := l.paths.Take()
+		if !ok {
+			break
+		}
 		if p.to == len(l.words)-1 {
 			found = append(found, l.reading(p))
 			continue
@@ -73,7 +57,7 @@ func (l *lister) extend(p path) {
 			continue
 		}
 		more := p.cost - l.least[p.to] + word.Cost + l.least[word.To]
-		l.paths.put(path{append(slices.Clone(p.words), i), word.To, more})
+		l.paths.Put(path{append(slices.Clone(p.words), i), word.To, more})
 	}
 }
 

@@ -4,6 +4,7 @@ import (
 	"strings"
 
 	"ostracon/api"
+	"ostracon/grammar"
 	"ostracon/lexicon"
 )
 
@@ -22,7 +23,7 @@ func Text(h api.House, words []api.Spelled) (string, api.Errno) {
 // formText returns a form as text, its parts with the marks between them.
 func formText(x api.Lexicon, f api.Form) string {
 	text := x.Entries[f.Entry].Root
-	if f.Ending != noEnding {
+	if f.Ending != grammar.NoEnding {
 		text += "." + x.Endings[f.Ending].Text
 	}
 	for _, c := range f.Clitics {
@@ -38,7 +39,7 @@ func Sounds(h api.House, words []api.Spelled) (string, api.Errno) {
 	}
 	var sounds strings.Builder
 	for _, w := range words {
-		sounds.WriteString(wordingOf(h.Lexicon, w.Form).sounds)
+		sounds.WriteString(grammar.WordingOf(h.Lexicon, w.Form).Sounds)
 	}
 	return sounds.String(), api.OK
 }

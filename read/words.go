@@ -7,6 +7,7 @@ import (
 	"slices"
 
 	"ostracon/api"
+	"ostracon/grammar"
 )
 
 // places is a set of places of a line. A line has at most MaxLine signs, so it
@@ -86,7 +87,7 @@ func compareEdges(a, b api.Edge) int {
 func (s speller) words(starts places) iter.Seq[api.Edge] {
 	return func(yield func(api.Edge) bool) {
 		for stem := range stems(s.house.Lexicon) {
-			w := wordingOf(s.house.Lexicon, stem)
+			w := grammar.WordingOf(s.house.Lexicon, stem)
 			// Most stems are spelled nowhere; this is seen for all places at once.
 			for at := range (starts & s.leading(w, anywhere)[0]).each() {
 				if !s.lean(stem, at, yield) {
@@ -101,7 +102,7 @@ func (s speller) words(starts places) iter.Seq[api.Edge] {
 func stems(x api.Lexicon) iter.Seq[api.Form] {
 	return func(yield func(api.Form) bool) {
 		for i, entry := range x.Entries {
-			if !yield(api.Form{Entry: i, Ending: noEnding}) {
+			if !yield(api.Form{Entry: i, Ending: grammar.NoEnding}) {
 				return
 			}
 			for j, ending := range x.Endings {
@@ -117,7 +118,7 @@ func stems(x api.Lexicon) iter.Seq[api.Form] {
 // more clitics. It goes on to more of them only where the form itself is
 // spelled, because a word with them begins with a word without them.
 func (s speller) lean(f api.Form, at int, yield func(api.Edge) bool) bool {
-	w := wordingOf(s.house.Lexicon, f)
+	w := grammar.WordingOf(s.house.Lexicon, f)
 	ways := s.leading(w, upTo(at+api.MaxUses))
 	if !ways[0].has(at) {
 		return true
@@ -143,16 +144,16 @@ func (s speller) lean(f api.Form, at int, yield func(api.Edge) bool) bool {
 
 // spell goes through the words at a place that have a wording; ways are those
 // that lead to where these words may end.
-func (s speller) spell(w wording, at int, ways []places, yield func(api.Edge) bool) bool {
+func (s speller) spell(w grammar.Wording, at int, ways []places, yield func(api.Edge) bool) bool {
 	var uses []api.Use
-	var spell func(p progress, place int) bool
-	spell = func(p progress, place int) bool {
-		if w.complete(p) && !yield(s.edge(w, at, uses)) {
+	var spell func(p grammar.Progress, place int) bool
+	spell = func(p grammar.Progress, place int) bool {
+		if w.Complete(p) && !yield(s.edge(w, at, uses)) {
 			return false
 		}
 		for _, u := range s.uses[place] {
-			next, ok := w.take(p, u)
-			if !ok || !s.perhapsRepeated(next.echo, ways[next.spelled]).has(place+1) {
+			next, ok := w.Take(p, u)
+			if !ok || !s.perhapsRepeated(next.Echo, ways[next.Spelled]).has(place+1) {
 				continue
 			}
 			uses = append(uses, u)
@@ -163,12 +164,12 @@ func (s speller) spell(w wording, at int, ways []places, yield func(api.Edge) bo
 		}
 		return true
 	}
-	return spell(progress{}, at)
+	return spell(grammar.Progress{}, at)
 }
 
-func (s speller) edge(w wording, at int, uses []api.Use) api.Edge {
-	word := copyWord(api.Spelled{Form: w.form, Uses: uses})
-	return api.Edge{From: at, To: at + len(uses), Cost: w.cost(s.house.Costs, uses), Word: word}
+func (s speller) edge(w grammar.Wording, at int, uses []api.Use) api.Edge {
+	word := copyWord(api.Spelled{Form: w.Form, Uses: uses})
+	return api.Edge{From: at, To: at + len(uses), Cost: w.Cost(s.house.Costs, uses), Word: word}
 }
 
 // copyWord returns an equal word that shares no memory with this one.
@@ -182,19 +183,19 @@ func copyWord(w api.Spelled) api.Spelled {
 // places from which the others can be spelled, up to one of the ends. With it
 // nothing is tried that cannot become a word: otherwise there could be far more
 // beginnings of words than words.
-func (s speller) leading(w wording, ends places) []places {
-	ways := make([]places, len(w.sounds)+1)
-	ways[len(w.sounds)] = ends
-	for spelled := len(w.sounds); spelled >= 0; spelled-- {
-		rest := w.rest(spelled)
+func (s speller) leading(w grammar.Wording, ends places) []places {
+	ways := make([]places, len(w.Sounds)+1)
+	ways[len(w.Sounds)] = ends
+	for spelled := len(w.Sounds); spelled >= 0; spelled-- {
+		rest := w.Rest(spelled)
 		for n := 1; n <= min(len(rest), api.MaxSounds); n++ {
 			ways[spelled] |= s.using(api.Use{Kind: api.Spells, Text: rest[:n]}, ways[spelled+n])
 		}
-		if spelled == w.body() {
-			ways[spelled] |= s.using(api.Use{Kind: api.Closes, Text: w.class}, ways[spelled])
+		if spelled == w.Body() {
+			ways[spelled] |= s.using(api.Use{Kind: api.Closes, Text: w.Class}, ways[spelled])
 		}
 	}
-	ways[0] |= s.using(api.Use{Kind: api.Stands, Text: w.root}, ways[len(w.root)])
+	ways[0] |= s.using(api.Use{Kind: api.Stands, Text: w.Root}, ways[len(w.Root)])
 	return ways
 }
 
@@ -205,7 +206,7 @@ func (s speller) using(u api.Use, on places) places {
 	if signs == 0 {
 		return 0
 	}
-	return signs & s.perhapsRepeated(echo(u), on).before()
+	return signs & s.perhapsRepeated(grammar.Echo(u), on).before()
 }
 
 // perhapsRepeated returns some places, and those where a sign that repeats the
